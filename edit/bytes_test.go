@@ -212,6 +212,7 @@ func TestReadRefused(t *testing.T) {
 		written(t, api.Edit{Next: 9, Log: 9, Index: 5, Seq: 200}), written(t, api.Edit{}), written(t, api.Edit{Next: 1 << 31, Log: 6, Index: 5, Seq: 200}), written(t, api.Edit{Next: math.MaxInt64, Log: 6, Index: 5, Seq: 200}),
 		written(t, api.Edit{Drop: []int64{99}, Next: 100, Log: 6, Index: 5, Seq: 200}), written(t, api.Edit{Drop: []int64{7, 7}, Next: 100, Log: 6, Index: 5, Seq: 200}), written(t, api.Edit{Drop: []int64{3, 3}, Next: 100, Log: 6, Index: 5, Seq: 200}),
 		written(t, api.Edit{Drop: []int64{5, 5}, Next: 100, Log: 6, Index: 5, Seq: 200}), written(t, api.Edit{Add: []api.TableAt{at(50, 1, "a-c"), at(51, 1, "c-d")}, Next: 100, Log: 6, Index: 5, Seq: 200}), written(t, api.Edit{Add: []api.TableAt{at(50, 1, "a-c")}, Next: 50, Log: 6, Index: 5, Seq: 200}),
+		written(t, api.Edit{Next: 100, Log: 7, Add: []api.TableAt{at(7, 3, "a-c")}, Index: 5, Seq: 200}), written(t, api.Edit{Next: 100, Log: 50, Add: []api.TableAt{at(51, 0, "a-c"), at(50, 3, "a-c")}, Index: 5, Seq: 200}),
 		written(t, api.Edit{Next: 100, Log: 6, Index: 5, Seq: 1 << 31}), written(t, api.Edit{Next: 100, Log: 6, Index: 1 << 31, Seq: 200}),
 	}
 	good := payloadOf(api.Edit{Add: []api.TableAt{at(50, 3, "a-c")}, Next: 100, Log: 6, Index: 5, Seq: 200})
@@ -231,6 +232,20 @@ func TestReadRefused(t *testing.T) {
 			end += len(f)
 		}
 	}
+}
+
+// P10.2: an edit behind which the log's number is a table's ends a manifest, whether the table comes by it, or was there ahead of it; one that drops that table does not.
+func TestReadLogTwice(t *testing.T) {
+	bad := written(t, api.Edit{Add: []api.TableAt{place(12, 0, "a", "c", 1)}, Next: 13, Log: 12})
+	reads(t, bad, empty(), 0, false)
+	v := api.Version{Next: 14, Log: 11, Tables: []api.TableAt{place(12, 0, "a", "c", 1)}}
+	b := written(t, wholeOf(v))
+	reads(t, b, v, len(b), true)
+	bad = written(t, api.Edit{Next: 14, Log: 12})
+	reads(t, b+bad, v, len(b), false)
+	b += written(t, api.Edit{Drop: []int64{12}, Next: 14, Log: 12})
+	reads(t, b, api.Version{Next: 14, Log: 12}, len(b), true)
+	reads(t, b+bad, api.Version{Next: 14, Log: 12}, len(b)+len(bad), true)
 }
 
 // noEdits are bytes that are no edit's, of those that are one's.
@@ -322,7 +337,7 @@ func said(v api.Version, payload string) (api.Version, bool) {
 func TestReadOfGreat(t *testing.T) {
 	const most = api.MaxNumber
 	v := api.Version{Next: most, Log: most - 1, Index: most, Seq: most, Tables: []api.TableAt{
-		place(most-1, 0, long(32), long(32), most), place(most-2, 0, "a", long(32), most), place(2, 3, long(32), "z", most), place(1, 3, strings.Repeat("\xff", 32), strings.Repeat("\xff", 32), 1)}}
+		place(most-2, 0, long(32), long(32), most), place(most-3, 0, "a", long(32), most), place(2, 3, long(32), "z", most), place(1, 3, strings.Repeat("\xff", 32), strings.Repeat("\xff", 32), 1)}}
 	b := written(t, wholeOf(v))
 	reads(t, b, v, len(b), true)
 }
@@ -336,7 +351,7 @@ func TestWhole(t *testing.T) {
 			t.Fatalf("Whole(%v): %v, %v", v, e, no)
 		}
 	}
-	for _, v := range []api.Version{{}, {Next: 1, Log: 1}, {Next: 1, Log: -1}, {Next: 1, Index: -1}, {Next: 1, Seq: -1}, version(5, at(5, 0, "a-c")), version(9, at(2, 0, "a-c"), at(5, 0, "a-c")), version(9, at(5, 1, "a-c"), at(2, 1, "c-c")), version(9, place(5, 0, "a", "b", 0))} {
+	for _, v := range []api.Version{{}, {Next: 1, Log: 1}, {Next: 1, Log: -1}, {Next: 1, Index: -1}, {Next: 1, Seq: -1}, version(5, at(5, 0, "a-c")), version(9, at(2, 0, "a-c"), at(5, 0, "a-c")), version(9, at(5, 1, "a-c"), at(2, 1, "c-c")), version(9, place(5, 0, "a", "b", 0)), version(9, at(5, 0, "a-c"), at(3, 1, "a-c"))} {
 		e, no := edit.Whole(v)
 		if no != api.ErrArg {
 			t.Fatalf("Whole(%v): %v", v, no)

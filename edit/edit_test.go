@@ -111,7 +111,9 @@ func TestMayOfTables(t *testing.T) {
 		{[]api.TableAt{at(1, 1, "a-b"), at(2, 1, "c-d"), at(3, 1, "d-e")}, false}, {[]api.TableAt{at(1, 1, "a-b"), at(2, 1, "c-d"), at(3, 1, "e-e")}, true},
 		{[]api.TableAt{at(1, 1, "a-z"), at(2, 2, "c-d"), at(3, 2, "e-e")}, true},
 	} {
-		mayBe(t, version(9, x.tables...), x.want)
+		v := version(9, x.tables...)
+		v.Log = 8 // none of theirs
+		mayBe(t, v, x.want)
 	}
 }
 
@@ -138,6 +140,32 @@ func TestMayOfMany(t *testing.T) {
 		mayBe(t, version(20, slices.Delete(deep(v).Tables, i, i+1)...), true)
 		mayBe(t, version(v.Tables[i].Number, v.Tables...), false)
 	}
+}
+
+// P10.1: no number is there twice: the log's is none of the tables', on whatever level, nor Next.
+func TestMayOfLog(t *testing.T) {
+	v := levels()
+	numbers := edit.Files(v)
+	for log := range v.Next + 1 {
+		v.Log = log
+		mayBe(t, v, log < v.Next && !slices.Contains(numbers, log))
+	}
+	for i, one := range v.Tables {
+		v.Log = one.Number
+		mayBe(t, v, false)
+		mayBe(t, api.Version{Next: 20, Log: one.Number, Tables: v.Tables[i : i+1]}, false)
+		v.Tables = slices.Delete(deep(v).Tables, i, i+1)
+		mayBe(t, v, true)
+		v = levels()
+	}
+	const most = api.MaxNumber
+	mayBe(t, api.Version{Next: most, Log: most - 1, Tables: []api.TableAt{place(most-1, 0, "a", "c", 1)}}, false)
+	mayBe(t, api.Version{Next: most, Log: most - 1, Tables: []api.TableAt{place(most-2, 0, "a", "c", 1)}}, true)
+	mayBe(t, api.Version{Next: most, Log: most - 2, Tables: []api.TableAt{place(most-1, 0, "a", "c", 1)}}, true)
+	// a place and a sequence number are no files' numbers
+	mayBe(t, api.Version{Next: 9, Log: 3, Index: 5, Seq: 5, Tables: []api.TableAt{at(5, 0, "a-c")}}, true)
+	mayBe(t, api.Version{Next: 9, Log: 3, Index: 3, Seq: 3, Tables: []api.TableAt{at(5, 0, "a-c")}}, true)
+	mayBe(t, api.Version{Next: 9, Log: 3, Index: 9, Seq: 9, Tables: []api.TableAt{at(5, 0, "a-c")}}, true)
 }
 
 // P10.1: any versions, held against the chapter's words.
@@ -185,7 +213,7 @@ func TestDo(t *testing.T) {
 		Add: []api.TableAt{at(30, 3, "t-z"), at(31, 1, "b-c"), at(20, 0, "b-d"), at(1, 3, "d-e"), at(39, 0, "a-z"), at(29, 1, "a-a"), at(10, 0, "c-c")}}
 	want := api.Version{Next: 40, Log: 25, Index: 51, Seq: 99, Tables: []api.TableAt{
 		at(39, 0, "a-z"), at(20, 0, "b-d"), at(15, 0, "c-m"), at(10, 0, "c-c"), at(4, 0, "m-m"),
-		at(29, 1, "a-a"), at(31, 1, "b-c"), at(2, 1, "d-d"), at(11, 1, "da-m"), at(3, 1, "n-z"),
+		at(29, 1, "a-a"), at(31, 1, "b-c"), at(2, 1, "d-d"), at(11, 1, "da-m"), at(6, 1, "n-z"),
 		at(9, 2, "b-b"), at(1, 3, "d-e"), at(30, 3, "t-z")}}
 	for range len(e.Drop) {
 		e.Drop = append(e.Drop[1:], e.Drop[0])
@@ -244,6 +272,30 @@ func TestDoRefused(t *testing.T) {
 			refused(t, empty(), e, api.ErrState)
 		}
 	}
+}
+
+// P10.1: what comes of an edit has no number twice, as the log's and as a table's: that of a table that stays, or comes; one that goes gives its number away.
+func TestDoLogTwice(t *testing.T) {
+	v := version(9, at(5, 0, "a-c"), at(2, 1, "b-c"), at(4, 1, "e-g"))
+	for _, e := range []api.Edit{
+		{Next: 9, Log: 5, Index: 50, Seq: 70}, {Next: 9, Log: 4, Index: 50, Seq: 70}, {Drop: []int64{2, 4}, Next: 9, Log: 5, Index: 50, Seq: 70}, {Drop: []int64{5, 2}, Next: 19, Log: 4, Index: 51, Seq: 71},
+		{Add: []api.TableAt{at(3, 0, "a-c")}, Next: 9, Log: 3, Index: 50, Seq: 70}, {Add: []api.TableAt{at(3, 3, "a-c")}, Next: 9, Log: 3, Index: 50, Seq: 70}, {Add: []api.TableAt{at(7, 0, "a-c"), at(8, 2, "a-c")}, Next: 9, Log: 7, Index: 50, Seq: 70},
+		{Add: []api.TableAt{at(7, 0, "a-c"), at(8, 2, "a-c")}, Next: 9, Log: 8, Index: 50, Seq: 70}, {Drop: []int64{5}, Add: []api.TableAt{at(5, 2, "a-c")}, Next: 9, Log: 5, Index: 50, Seq: 70},
+	} {
+		refused(t, v, e, api.ErrState)
+	}
+	for _, e := range []api.Edit{
+		{Drop: []int64{5}, Next: 9, Log: 5, Index: 50, Seq: 70}, {Drop: []int64{4}, Next: 9, Log: 4, Index: 50, Seq: 70}, {Drop: []int64{4, 5}, Add: []api.TableAt{at(5, 1, "e-g")}, Next: 9, Log: 4, Index: 50, Seq: 70},
+		{Add: []api.TableAt{at(3, 0, "a-c")}, Next: 9, Log: 6, Index: 50, Seq: 70}, {Add: []api.TableAt{at(7, 0, "a-c")}, Next: 9, Log: 8, Index: 50, Seq: 70},
+	} {
+		want, _ := doneTo(v, e)
+		if got := done(t, v, e); !same(got, want) || got.Log != e.Log {
+			t.Fatalf("Do(%v, %v): %v, want %v", v, e, got, want)
+		}
+	}
+	bad := version(9, at(5, 0, "a-c"), at(3, 1, "b-c"))
+	refused(t, bad, api.Edit{Drop: []int64{3}, Next: 9, Log: 3, Index: 50, Seq: 70}, api.ErrArg)
+	refused(t, bad, api.Edit{Next: 9, Log: 6, Index: 50, Seq: 70}, api.ErrArg)
 }
 
 // P10.1: ErrArg comes ahead of ErrState: a version that may not be, a number twice in Drop.

@@ -42,7 +42,7 @@ func version(next int64, tables ...api.TableAt) api.Version {
 // levels is a version of some tables on all levels.
 func levels() api.Version {
 	return version(20, at(15, 0, "c-m"), at(12, 0, "a-z"), at(4, 0, "m-m"),
-		at(7, 1, "a-c"), at(2, 1, "d-d"), at(11, 1, "da-m"), at(3, 1, "n-z"),
+		at(7, 1, "a-c"), at(2, 1, "d-d"), at(11, 1, "da-m"), at(6, 1, "n-z"),
 		at(9, 2, "b-b"), at(1, 2, "c-k"), at(18, 3, "a-\xff"))
 }
 
@@ -144,7 +144,7 @@ func pairIs(a, b api.TableAt) bool {
 // versionIs tells whether a version may be, as the chapter's words have it.
 func versionIs(v api.Version) bool {
 	for i, t := range v.Tables {
-		if !placeIs(t) || t.Number >= v.Next {
+		if !placeIs(t) || t.Number >= v.Next || t.Number == v.Log {
 			return false
 		}
 		for _, other := range v.Tables[i+1:] {
@@ -249,7 +249,11 @@ func someAt(next func(int) int) api.TableAt {
 
 // someEdit is any edit, that goes on from a version; of many one may be done.
 func someEdit(next func(int) int, v api.Version) api.Edit {
-	e := api.Edit{Next: v.Next + int64(next(3)), Log: v.Log + int64(next(2)), Index: v.Index + int64(next(3)), Seq: v.Seq + int64(next(3))}
+	e := api.Edit{Next: v.Next + int64(next(3)), Log: v.Log, Index: v.Index + int64(next(3)), Seq: v.Seq + int64(next(3))}
+	if next(2) > 0 {
+		e.Log = e.Next
+		e.Next++
+	}
 	for range next(3) {
 		if len(v.Tables) > 0 {
 			e.Drop = append(e.Drop, v.Tables[next(len(v.Tables))].Number)
@@ -274,6 +278,10 @@ func someEdit(next func(int) int, v api.Version) api.Edit {
 		e.Index--
 	case 4:
 		e.Seq--
+	case 5:
+		if l := slices.Concat(v.Tables, e.Add); len(l) > 0 {
+			e.Log = l[next(len(l))].Number
+		}
 	}
 	return e
 }
